@@ -1,7 +1,6 @@
 package tests
 
 import (
-	"slices"
 	"testing"
 
 	"loop.example/wholewaves/impl"
@@ -18,23 +17,6 @@ func checkExamples(t *testing.T, name string, function transform, examples []exa
 	for _, e := range examples {
 		sameNumbers(t, name, e.row, function(e.row), e.want)
 	}
-}
-
-// rowTransforms are the functions of chapter 1 that take any row.
-func rowTransforms() map[string]transform {
-	return map[string]transform{
-		"SumsOf":        impl.SumsOf,
-		"StepsOf":       impl.StepsOf,
-		"EdgeOf":        impl.EdgeOf,
-		"FromEdge":      impl.FromEdge,
-		"DivisorSums":   impl.DivisorSums,
-		"UndivisorSums": impl.UndivisorSums,
-	}
-}
-
-// binaryTransforms are those that take a row of 1, 2, 4, 8 or 16 numbers.
-func binaryTransforms() map[string]transform {
-	return map[string]transform{"BelowOf": impl.BelowOf, "UnbelowOf": impl.UnbelowOf}
 }
 
 func TestValidRow(t *testing.T) {
@@ -263,77 +245,4 @@ func TestUndivisorSums(t *testing.T) {
 		{[]int{1, 0, 0, 0, 0, 0, 0, 0, 0, 0, 0, 0}, []int{1, -1, -1, 0, -1, 1, -1, 0, 0, 1, -1, 0}},
 		{[]int{-1000, 1000, 1000, 0, 0, 1000}, []int{-1000, 2000, 2000, -1000, 1000, -2000}},
 	})
-}
-
-func TestNoRowGivesNothing(t *testing.T) {
-	for _, row := range wrongRows() {
-		for name, function := range rowTransforms() {
-			sameNumbers(t, name, row, function(row), nil)
-		}
-		for name, function := range binaryTransforms() {
-			sameNumbers(t, name, row, function(row), nil)
-		}
-	}
-}
-
-func TestOtherLengthsGiveNothing(t *testing.T) {
-	for length := range 40 {
-		for name, function := range binaryTransforms() {
-			row := repeated(1, length)
-			if got := function(row); (len(got) != 0) != binaryLength(length) {
-				t.Errorf("%s of %d numbers = %v", name, length, got)
-			}
-		}
-	}
-	sameNumbers(t, "BelowOf", nil, impl.BelowOf(nil), nil)
-	sameNumbers(t, "UnbelowOf", nil, impl.UnbelowOf(nil), nil)
-}
-
-// TestResultsAreAsLong checks that each transform gives a number for a number.
-func TestResultsAreAsLong(t *testing.T) {
-	for _, row := range sampleRows() {
-		for name, function := range rowTransforms() {
-			if got := function(row); len(got) != len(row) {
-				t.Errorf("%s(%v) = %v", name, row, got)
-			}
-		}
-	}
-}
-
-// TestArgumentsStay checks that no argument is changed, neither by the call
-// nor through the result and its spare capacity.
-func TestArgumentsStay(t *testing.T) {
-	functions := rowTransforms()
-	for name, function := range binaryTransforms() {
-		functions[name] = function
-	}
-	for name, function := range functions {
-		whole := []int{8, 1, 6, -3, 5, 7, 4, 9, 2, 11, 13, 12, 40, 41, 42, 43}
-		for _, length := range []int{0, 1, 4, 8, 16} {
-			before := slices.Clone(whole)
-			got := function(whole[:length])
-			for i := range got[:cap(got)] {
-				got[:cap(got)][i] = 999
-			}
-			sameNumbers(t, name+" with its argument", before[:length], whole, before)
-		}
-	}
-}
-
-// TestCallsKeepNothing checks that a call does not change what another one
-// returns, or returned.
-func TestCallsKeepNothing(t *testing.T) {
-	functions := rowTransforms()
-	for name, function := range binaryTransforms() {
-		functions[name] = function
-	}
-	for name, function := range functions {
-		row := []int{3, 1, 4, 1}
-		first := function(row)
-		want := slices.Clone(first)
-		function([]int{9, 9, 9, 9})
-		sameNumbers(t, name, row, first, want)
-		first[0] = 999
-		sameNumbers(t, name, row, function(row), want)
-	}
 }

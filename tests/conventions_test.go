@@ -1,0 +1,112 @@
+package tests
+
+import (
+	"maps"
+	"slices"
+	"testing"
+
+	"loop.example/wholewaves/impl"
+)
+
+// rowTransforms are the functions that take any row.
+func rowTransforms() map[string]transform {
+	return map[string]transform{
+		"SumsOf":        impl.SumsOf,
+		"StepsOf":       impl.StepsOf,
+		"EdgeOf":        impl.EdgeOf,
+		"FromEdge":      impl.FromEdge,
+		"DivisorSums":   impl.DivisorSums,
+		"UndivisorSums": impl.UndivisorSums,
+	}
+}
+
+// binaryTransforms are those that take a row of 1, 2, 4, 8 or 16 numbers. A
+// function of two rows is given the same one twice.
+func binaryTransforms() map[string]transform {
+	functions := map[string]transform{
+		"BelowOf":   impl.BelowOf,
+		"UnbelowOf": impl.UnbelowOf,
+		"SignsOf":   impl.SignsOf,
+		"UnsignsOf": func(row []int) []int {
+			numbers, _ := impl.UnsignsOf(row)
+			return numbers
+		},
+	}
+	for _, kind := range mixKinds() {
+		functions["MixOf by "+kind] = func(row []int) []int { return impl.MixOf(row, row, kind) }
+	}
+	return functions
+}
+
+func allTransforms() map[string]transform {
+	functions := rowTransforms()
+	maps.Copy(functions, binaryTransforms())
+	return functions
+}
+
+func TestNoRowGivesNothing(t *testing.T) {
+	for _, row := range wrongRows() {
+		for name, function := range allTransforms() {
+			sameNumbers(t, name, row, function(row), nil)
+		}
+	}
+}
+
+func TestOtherLengthsGiveNothing(t *testing.T) {
+	for length := range 40 {
+		for name, function := range binaryTransforms() {
+			row := repeated(1, length)
+			if got := function(row); (len(got) != 0) != binaryLength(length) {
+				t.Errorf("%s of %d numbers = %v", name, length, got)
+			}
+		}
+	}
+	for name, function := range binaryTransforms() {
+		sameNumbers(t, name, nil, function(nil), nil)
+	}
+}
+
+// TestResultsAreAsLong checks that each transform gives a number for a number.
+func TestResultsAreAsLong(t *testing.T) {
+	for _, row := range sampleRows() {
+		for name, function := range rowTransforms() {
+			if got := function(row); len(got) != len(row) {
+				t.Errorf("%s(%v) = %v", name, row, got)
+			}
+		}
+	}
+}
+
+// TestArgumentsStay checks that no argument is changed, neither by the call
+// nor through the result and its spare capacity.
+func TestArgumentsStay(t *testing.T) {
+	for name, function := range allTransforms() {
+		// UnsignsOf is whole for multiples of 16.
+		whole := []int{16, 0, 96, -48, 80, 112, 64, 144, 32, 176, 208, 192, 640, 656, 672, 688}
+		for _, length := range []int{0, 1, 4, 8, 16} {
+			before := slices.Clone(whole)
+			got := function(whole[:length])
+			for i := range got[:cap(got)] {
+				got[:cap(got)][i] = 999
+			}
+			sameNumbers(t, name+" with its argument", before[:length], whole, before)
+		}
+	}
+}
+
+// TestCallsKeepNothing checks that a call does not change what another one
+// returns, or returned.
+func TestCallsKeepNothing(t *testing.T) {
+	for name, function := range allTransforms() {
+		row := []int{12, 4, 16, 8}
+		first := function(row)
+		if len(first) == 0 {
+			t.Fatalf("%s(%v) has no numbers", name, row)
+		}
+		want := slices.Clone(first)
+		function([]int{20, 20, 20, 20})
+		sameNumbers(t, name, row, first, want)
+		first[0] = 999
+		sameNumbers(t, name, row, function(row), want)
+	}
+}
