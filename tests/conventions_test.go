@@ -38,7 +38,20 @@ func binaryTransforms() map[string]transform {
 	return functions
 }
 
-func allTransforms() map[string]transform {
+// restTransforms are those that take rests. A function of two rows is given
+// the same one twice.
+func restTransforms() map[string]transform {
+	return map[string]transform{
+		"WaveOf":          impl.WaveOf,
+		"UnwaveOf":        impl.UnwaveOf,
+		"RingOf":          func(row []int) []int { return impl.RingOf(row, row) },
+		"TurnOf by 0":     func(row []int) []int { return impl.TurnOf(row, 0) },
+		"TurnOf by a few": func(row []int) []int { return impl.TurnOf(row, 5) },
+	}
+}
+
+// allRowTransforms are those that take a row of some length.
+func allRowTransforms() map[string]transform {
 	functions := rowTransforms()
 	maps.Copy(functions, binaryTransforms())
 	return functions
@@ -46,7 +59,12 @@ func allTransforms() map[string]transform {
 
 func TestNoRowGivesNothing(t *testing.T) {
 	for _, row := range wrongRows() {
-		for name, function := range allTransforms() {
+		for name, function := range allRowTransforms() {
+			sameNumbers(t, name, row, function(row), nil)
+		}
+	}
+	for _, row := range wrongRests() {
+		for name, function := range restTransforms() {
 			sameNumbers(t, name, row, function(row), nil)
 		}
 	}
@@ -75,29 +93,47 @@ func TestResultsAreAsLong(t *testing.T) {
 			}
 		}
 	}
+	for _, row := range sampleRests() {
+		for name, function := range restTransforms() {
+			if got := function(row); len(got) != len(row) {
+				t.Errorf("%s(%v) = %v", name, row, got)
+			}
+		}
+	}
 }
 
 // TestArgumentsStay checks that no argument is changed, neither by the call
 // nor through the result and its spare capacity.
 func TestArgumentsStay(t *testing.T) {
-	for name, function := range allTransforms() {
-		// UnsignsOf is whole for multiples of 16.
-		whole := []int{16, 0, 96, -48, 80, 112, 64, 144, 32, 176, 208, 192, 640, 656, 672, 688}
-		for _, length := range []int{0, 1, 4, 8, 16} {
-			before := slices.Clone(whole)
-			got := function(whole[:length])
-			for i := range got[:cap(got)] {
-				got[:cap(got)][i] = 999
-			}
-			sameNumbers(t, name+" with its argument", before[:length], whole, before)
+	// UnsignsOf is whole for multiples of 16.
+	whole := []int{16, 0, 96, -48, 80, 112, 64, 144, 32, 176, 208, 192, 640, 656, 672, 688}
+	for name, function := range allRowTransforms() {
+		argumentStays(t, name, function, whole)
+	}
+	rests := []int{16, 0, 96, 48, 80, 12, 64, 44, 32, 76, 8, 92, 40, 56, 72, 88}
+	for name, function := range restTransforms() {
+		argumentStays(t, name, function, rests)
+	}
+}
+
+func argumentStays(t *testing.T, name string, function transform, whole []int) {
+	t.Helper()
+	for _, length := range []int{0, 1, 4, 8, 16} {
+		before := slices.Clone(whole)
+		got := function(whole[:length])
+		for i := range got[:cap(got)] {
+			got[:cap(got)][i] = 999
 		}
+		sameNumbers(t, name+" with its argument", before[:length], whole, before)
 	}
 }
 
 // TestCallsKeepNothing checks that a call does not change what another one
 // returns, or returned.
 func TestCallsKeepNothing(t *testing.T) {
-	for name, function := range allTransforms() {
+	functions := allRowTransforms()
+	maps.Copy(functions, restTransforms())
+	for name, function := range functions {
 		row := []int{12, 4, 16, 8}
 		first := function(row)
 		if len(first) == 0 {
