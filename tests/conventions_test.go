@@ -11,12 +11,24 @@ import (
 // rowTransforms are the functions that take any row.
 func rowTransforms() map[string]transform {
 	return map[string]transform{
-		"SumsOf":        impl.SumsOf,
-		"StepsOf":       impl.StepsOf,
-		"EdgeOf":        impl.EdgeOf,
-		"FromEdge":      impl.FromEdge,
-		"DivisorSums":   impl.DivisorSums,
-		"UndivisorSums": impl.UndivisorSums,
+		"SumsOf":            impl.SumsOf,
+		"StepsOf":           impl.StepsOf,
+		"EdgeOf":            impl.EdgeOf,
+		"FromEdge":          impl.FromEdge,
+		"DivisorSums":       impl.DivisorSums,
+		"UndivisorSums":     impl.UndivisorSums,
+		"DropSmall of none": func(row []int) []int { return impl.DropSmall(row, 0) },
+		"DropSmall of some": func(row []int) []int { return impl.DropSmall(row, 10) },
+	}
+}
+
+// evenTransforms are those that take a row of an even number of numbers.
+func evenTransforms() map[string]transform {
+	return map[string]transform{
+		"HalveOf":   impl.HalveOf,
+		"UnhalveOf": impl.UnhalveOf,
+		"LeapOf":    impl.LeapOf,
+		"UnleapOf":  impl.UnleapOf,
 	}
 }
 
@@ -24,9 +36,11 @@ func rowTransforms() map[string]transform {
 // function of two rows is given the same one twice.
 func binaryTransforms() map[string]transform {
 	functions := map[string]transform{
-		"BelowOf":   impl.BelowOf,
-		"UnbelowOf": impl.UnbelowOf,
-		"SignsOf":   impl.SignsOf,
+		"BelowOf":    impl.BelowOf,
+		"UnbelowOf":  impl.UnbelowOf,
+		"HalveAll":   impl.HalveAll,
+		"UnhalveAll": impl.UnhalveAll,
+		"SignsOf":    impl.SignsOf,
 		"UnsignsOf": func(row []int) []int {
 			numbers, _ := impl.UnsignsOf(row)
 			return numbers
@@ -53,6 +67,7 @@ func restTransforms() map[string]transform {
 // allRowTransforms are those that take a row of some length.
 func allRowTransforms() map[string]transform {
 	functions := rowTransforms()
+	maps.Copy(functions, evenTransforms())
 	maps.Copy(functions, binaryTransforms())
 	return functions
 }
@@ -78,6 +93,13 @@ func TestOtherLengthsGiveNothing(t *testing.T) {
 				t.Errorf("%s of %d numbers = %v", name, length, got)
 			}
 		}
+		for name, function := range evenTransforms() {
+			row := repeated(1, length)
+			even := length%2 == 0 && length > 0 && length <= 16
+			if got := function(row); (len(got) != 0) != even {
+				t.Errorf("%s of %d numbers = %v", name, length, got)
+			}
+		}
 	}
 	for name, function := range binaryTransforms() {
 		sameNumbers(t, name, nil, function(nil), nil)
@@ -88,6 +110,13 @@ func TestOtherLengthsGiveNothing(t *testing.T) {
 func TestResultsAreAsLong(t *testing.T) {
 	for _, row := range sampleRows() {
 		for name, function := range rowTransforms() {
+			if got := function(row); len(got) != len(row) {
+				t.Errorf("%s(%v) = %v", name, row, got)
+			}
+		}
+	}
+	for _, row := range evenRows() {
+		for name, function := range evenTransforms() {
 			if got := function(row); len(got) != len(row) {
 				t.Errorf("%s(%v) = %v", name, row, got)
 			}
