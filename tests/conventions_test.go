@@ -8,7 +8,8 @@ import (
 	"loop.example/wholewaves/impl"
 )
 
-// rowTransforms are the functions that take any row.
+// rowTransforms are the functions that take any row and give a number for a
+// number.
 func rowTransforms() map[string]transform {
 	return map[string]transform{
 		"SumsOf":            impl.SumsOf,
@@ -19,6 +20,27 @@ func rowTransforms() map[string]transform {
 		"UndivisorSums":     impl.UndivisorSums,
 		"DropSmall of none": func(row []int) []int { return impl.DropSmall(row, 0) },
 		"DropSmall of some": func(row []int) []int { return impl.DropSmall(row, 10) },
+		"SelfOf":            impl.SelfOf,
+		"BoxSums of one":    func(row []int) []int { return impl.BoxSums(row, 1) },
+		"MiddlesOf one":     func(row []int) []int { return impl.MiddlesOf(row, 1) },
+	}
+}
+
+// otherTransforms are those that give more or fewer numbers. A function of two
+// rows is given the same one twice, or a divisor.
+func otherTransforms() map[string]transform {
+	return map[string]transform{
+		"TimesOf":          func(row []int) []int { return impl.TimesOf(row, row) },
+		"BoxSums of three": func(row []int) []int { return impl.BoxSums(row, 3) },
+		"MiddlesOf three":  func(row []int) []int { return impl.MiddlesOf(row, 3) },
+		"PartOf": func(row []int) []int {
+			parts, _, _ := impl.PartOf(row, []int{2, 1})
+			return parts
+		},
+		"what PartOf leaves": func(row []int) []int {
+			_, left, _ := impl.PartOf(row, []int{2, 1})
+			return left
+		},
 	}
 }
 
@@ -67,6 +89,7 @@ func restTransforms() map[string]transform {
 // allRowTransforms are those that take a row of some length.
 func allRowTransforms() map[string]transform {
 	functions := rowTransforms()
+	maps.Copy(functions, otherTransforms())
 	maps.Copy(functions, evenTransforms())
 	maps.Copy(functions, binaryTransforms())
 	return functions
